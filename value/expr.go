@@ -1,6 +1,7 @@
 package value
 
 import (
+	"math"
 	"slices"
 
 	"canvass/api"
@@ -163,11 +164,11 @@ func isAboutAnswer(op int) bool {
 	return op == api.OpAnswered || op == api.OpAsked || op == api.OpReason
 }
 
-// argsOf returns the least and the greatest number of Args of an operation.
+// argsOf returns the least and the greatest number of Args of an operation. Where V10 has no greatest one, MaxParts is a matter of the whole expression (ErrLarge), not of the operation.
 func argsOf(op int) (int, int) {
 	switch op {
 	case api.OpAnd, api.OpOr, api.OpLeast, api.OpMost:
-		return 2, api.MaxParts
+		return 2, math.MaxInt
 	case api.OpIf:
 		return 3, 3
 	case api.OpNot, api.OpAnswered, api.OpAsked, api.OpReason, api.OpNeg, api.OpAbs, api.OpFloor, api.OpRound, api.OpSize, api.OpCode, api.OpLower, api.OpYear, api.OpMonth, api.OpDayOf:

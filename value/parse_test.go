@@ -65,6 +65,23 @@ func TestMisplacedWords(t *testing.T) {
 	}
 }
 
+// calls returns the text of a call with so many arguments, the last of which is given.
+func calls(function string, arguments int, last string) string {
+	return function + "(" + strings.Repeat("1,", arguments-1) + last + ")"
+}
+
+// TestManyArguments: how many arguments min and max have is no matter of where words can stand (V8, V10).
+func TestManyArguments(t *testing.T) {
+	for _, function := range []string{"min", "max"} {
+		for _, n := range []int{299, 300, 301, 302, 1000} {
+			input := calls(function, n, "=")
+			if _, place, fault := Parse(input); place != len(input)-2 || fault != api.ErrSyntax {
+				t.Errorf("Parse of %s with %d arguments is %d at %d", function, n, fault, place)
+			}
+		}
+	}
+}
+
 func TestParseFaults(t *testing.T) {
 	fits, tooLong := strings.Repeat(" ", api.MaxLine-1)+"a", strings.Repeat(" ", api.MaxLine)+"a"
 	deep := func(n int) string { return strings.Repeat("not ", n) + "a" }
@@ -75,6 +92,7 @@ func TestParseFaults(t *testing.T) {
 		{fits, api.OK}, {tooLong, api.ErrLarge}, {tooLong + ")", api.ErrLarge},
 		{deep(19), api.OK}, {deep(20), api.ErrLarge}, {strings.Repeat("(", 1000) + "a" + strings.Repeat(")", 1000), api.OK}, {deep(990), api.ErrLarge},
 		{strings.Repeat("a or ", 298) + "a", api.OK}, {strings.Repeat("a or ", 299) + "a", api.ErrLarge},
+		{calls("min", 299, "1"), api.OK}, {calls("min", 300, "1"), api.ErrLarge}, {calls("min", 301, "1"), api.ErrLarge}, {calls("min", 1900, "1"), api.ErrLarge}, {calls("max", 299, "1"), api.OK}, {calls("max", 300, "1"), api.ErrLarge}, {calls("max", 301, "1"), api.ErrLarge}, {"a + " + calls("max", 301, "1"), api.ErrLarge}, {strings.Repeat("a and ", 301) + "a", api.ErrLarge},
 		{"abcdefghijklmnop", api.OK}, {"abcdefghijklmnopq", api.ErrName}, {"row(abcdefghijklmnopq)", api.ErrName}, {"sum(abcdefghijklmnopq: 1)", api.ErrName}, {"abcdefghijklmnopq + answered(1)", api.ErrName},
 		{"answered(1)", api.ErrForm}, {"asked(a + b)", api.ErrForm}, {"reason(row(a))", api.ErrForm}, {"answered(1) + abcdefghijklmnopq", api.ErrForm},
 	} {
