@@ -12,38 +12,14 @@ func Eval(e api.Expr, s api.Scene, at []string, row []int) (api.Value, api.Fault
 	if fault != api.OK {
 		return api.Value{}, fault
 	}
-	if fault := CheckExpr(e); fault != api.OK {
-		return api.Value{}, fault
-	}
-	kind, fault := names.typeOf(e, at)
-	if fault != api.OK {
-		return api.Value{}, fault
-	}
-	if fault := checkRow(row, at); fault != api.OK {
-		return api.Value{}, fault
-	}
-	v := view{names, s}.meaningOf(e, at)(row)
-	switch {
-	case !isMissing(v):
-		v.Set = slices.Clone(v.Set)
-		return v, api.OK
-	case kind == api.Bool:
-		return boolean(false), api.OK
-	}
-	return api.Value{}, api.OK
-}
-
-// view is a scene that CheckScene accepts.
-type view struct {
-	sight
-	scene api.Scene
+	return View{names, s}.Eval(e, at, row)
 }
 
 // meaning is an expression at a place: its value for the numbers of the rows there. It does not keep the row, and its values are not changed.
 type meaning func(row []int) api.Value
 
 // meaningOf returns the meaning of an expression which has a kind at a place.
-func (v view) meaningOf(e api.Expr, place []string) meaning {
+func (v View) meaningOf(e api.Expr, place []string) meaning {
 	switch e.Kind {
 	case api.XConst:
 		return func([]int) api.Value { return e.Value }
@@ -74,7 +50,7 @@ func (v view) meaningOf(e api.Expr, place []string) meaning {
 }
 
 // bound returns a function that tells the Bound for which a name stands; the zero Bound, if there is none.
-func (v view) bound(name string) func(row []int) api.Bound {
+func (v View) bound(name string) func(row []int) api.Bound {
 	loops := len(v.cells[name].Loops)
 	return func(row []int) api.Bound {
 		want := api.Bound{Name: name, Row: row[:loops]}
@@ -86,7 +62,7 @@ func (v view) bound(name string) func(row []int) api.Bound {
 	}
 }
 
-func (v view) numbers(loop string, row []int) []int {
+func (v View) numbers(loop string, row []int) []int {
 	i, found := slices.BinarySearchFunc(v.scene.Rows, api.Rows{Loop: loop, Row: row}, compareRows)
 	if !found {
 		return nil
@@ -116,7 +92,7 @@ func aboutAnswer(op int, bound api.Bound) api.Value {
 }
 
 // over returns the meaning of an XOver. It depends only on the rows around its loop. These come in order, so it is enough to remember the last value, and aggregates within aggregates over the same rows are not computed for each row anew.
-func (v view) over(e api.Expr) meaning {
+func (v View) over(e api.Expr) meaning {
 	loop := v.loops[e.Name]
 	arg := v.meaningOf(e.Args[0], within(loop))
 	var lastRow []int

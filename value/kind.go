@@ -6,8 +6,8 @@ import (
 	"canvass/api"
 )
 
-// sight is what expressions can name.
-type sight struct {
+// Sight is what expressions can name. With one, the kinds of many expressions cost no more than they do.
+type Sight struct {
 	cells map[string]api.Cell
 	loops map[string]api.Nest
 }
@@ -25,7 +25,7 @@ func TypeOf(e api.Expr, cells []api.Cell, loops []api.Nest, at []string) (int, a
 }
 
 // typeOf is TypeOf for an expression that CheckExpr accepts.
-func (s sight) typeOf(e api.Expr, at []string) (int, api.Fault) {
+func (s Sight) typeOf(e api.Expr, at []string) (int, api.Fault) {
 	if !s.isPlace(at) {
 		return 0, api.ErrNone
 	}
@@ -33,27 +33,27 @@ func (s sight) typeOf(e api.Expr, at []string) (int, api.Fault) {
 }
 
 // sightOf validates cells and loops.
-func sightOf(cells []api.Cell, loops []api.Nest) (sight, api.Fault) {
-	s := sight{map[string]api.Cell{}, map[string]api.Nest{}}
+func sightOf(cells []api.Cell, loops []api.Nest) (Sight, api.Fault) {
+	s := Sight{map[string]api.Cell{}, map[string]api.Nest{}}
 	for _, cell := range cells {
 		if fault := s.addCell(cell); fault != api.OK {
-			return sight{}, fault
+			return Sight{}, fault
 		}
 	}
 	for _, loop := range loops {
 		if fault := s.addLoop(loop); fault != api.OK {
-			return sight{}, fault
+			return Sight{}, fault
 		}
 	}
 	for _, cell := range cells {
 		if !s.isPlace(cell.Loops) {
-			return sight{}, api.ErrNone
+			return Sight{}, api.ErrNone
 		}
 	}
 	return s, api.OK
 }
 
-func (s sight) addCell(cell api.Cell) api.Fault {
+func (s Sight) addCell(cell api.Cell) api.Fault {
 	if !IsName(cell.Name) {
 		return api.ErrName
 	}
@@ -67,7 +67,7 @@ func (s sight) addCell(cell api.Cell) api.Fault {
 	return api.OK
 }
 
-func (s sight) addLoop(loop api.Nest) api.Fault {
+func (s Sight) addLoop(loop api.Nest) api.Fault {
 	if !IsName(loop.Name) {
 		return api.ErrName
 	}
@@ -82,7 +82,7 @@ func (s sight) addLoop(loop api.Nest) api.Fault {
 }
 
 // isPlace reports whether loops are empty, or the Loops and the Name of a loop.
-func (s sight) isPlace(loops []string) bool {
+func (s Sight) isPlace(loops []string) bool {
 	if len(loops) == 0 {
 		return true
 	}
@@ -100,7 +100,7 @@ func isAround(loops, place []string) bool {
 }
 
 // kindOf returns the kind of an expression that CheckExpr accepts.
-func (s sight) kindOf(e api.Expr, place []string) (int, api.Fault) {
+func (s Sight) kindOf(e api.Expr, place []string) (int, api.Fault) {
 	switch e.Kind {
 	case api.XConst:
 		return e.Value.Kind, api.OK

@@ -15,13 +15,13 @@ func CheckScene(s api.Scene) api.Fault {
 }
 
 // sightOfScene validates a scene and returns what expressions can name in it.
-func sightOfScene(s api.Scene) (sight, api.Fault) {
+func sightOfScene(s api.Scene) (Sight, api.Fault) {
 	names, fault := sightOf(s.Cells, s.Loops)
 	if fault != api.OK {
-		return sight{}, fault
+		return Sight{}, fault
 	}
 	if len(s.Bounds) > api.MaxBounds || len(s.Rows) > api.MaxBounds {
-		return sight{}, api.ErrLarge
+		return Sight{}, api.ErrLarge
 	}
 	for i, bound := range s.Bounds {
 		fault := names.checkBound(bound)
@@ -29,7 +29,7 @@ func sightOfScene(s api.Scene) (sight, api.Fault) {
 			fault = checkOrder(compareBounds(s.Bounds[i-1], bound))
 		}
 		if fault != api.OK {
-			return sight{}, fault
+			return Sight{}, fault
 		}
 	}
 	for i, rows := range s.Rows {
@@ -38,7 +38,7 @@ func sightOfScene(s api.Scene) (sight, api.Fault) {
 			fault = checkOrder(compareRows(s.Rows[i-1], rows))
 		}
 		if fault != api.OK {
-			return sight{}, fault
+			return Sight{}, fault
 		}
 	}
 	return names, api.OK
@@ -63,7 +63,7 @@ func compareRows(a, b api.Rows) int {
 	return cmp.Or(strings.Compare(a.Loop, b.Loop), slices.Compare(a.Row, b.Row))
 }
 
-func (s sight) checkBound(bound api.Bound) api.Fault {
+func (s Sight) checkBound(bound api.Bound) api.Fault {
 	cell, known := s.cells[bound.Name]
 	if !known {
 		return api.ErrName
@@ -80,7 +80,7 @@ func (s sight) checkBound(bound api.Bound) api.Fault {
 	return api.OK
 }
 
-func (s sight) checkRows(rows api.Rows) api.Fault {
+func (s Sight) checkRows(rows api.Rows) api.Fault {
 	loop, known := s.loops[rows.Loop]
 	if !known {
 		return api.ErrName

@@ -1,0 +1,238 @@
+package quest
+
+import (
+	"slices"
+	"strconv"
+	"strings"
+
+	"canvass/api"
+	"canvass/value"
+)
+
+// Arranged returns the order of the Items of a block (F10).
+func Arranged(f api.Form, seed, name string, row []int) ([]int, api.Fault) {
+	x, fault := findEntry(f, name)
+	if fault != api.OK {
+		return nil, fault
+	}
+	if x.item.Kind != api.ItemBlock {
+		return nil, api.ErrName
+	}
+	if fault := checkRow(row, x.loops); fault != api.OK {
+		return nil, fault
+	}
+	return orderOf(len(x.item.Items), x.item.Shuffle, seedOf(seed, name, row))
+}
+
+// orderOf returns 0 .. n - 1, or, if they are shuffled, in the order of a seed.
+func orderOf(n int, isShuffled bool, seed string) ([]int, api.Fault) {
+	if isShuffled {
+		return value.Shuffle(seed, n)
+	}
+	order := make([]int, n)
+	for i := range order {
+		order[i] = i
+	}
+	return order, api.OK
+}
+
+// seedOf returns the seed for an item and a row.
+func seedOf(seed, name string, row []int) string {
+	numbers := make([]string, len(row))
+	for i, n := range row {
+		numbers[i] = strconv.Itoa(n)
+	}
+	return seed + "|" + name + "|" + strings.Join(numbers, ".")
+}
+
+// checkRow has the errors of the numbers of the rows of loops.
+func checkRow(row []int, loops []string) api.Fault {
+	if len(row) != len(loops) {
+		return api.ErrForm
+	}
+	for _, n := range row {
+		if n < 1 || n > api.MaxCode {
+			return api.ErrRange
+		}
+	}
+	return api.OK
+}
+
+// viewOf returns the view of a scene of the form, or the errors of the scene in F8.
+func (p *plan) viewOf(s api.Scene) (value.View, api.Fault) {
+	view, fault := value.ViewOf(s)
+	if fault != api.OK {
+		return value.View{}, fault
+	}
+	sameCell := func(a, b api.Cell) bool {
+		return a.Name == b.Name && a.Kind == b.Kind && slices.Equal(a.Loops, b.Loops)
+	}
+	sameNest := func(a, b api.Nest) bool { return a.Name == b.Name && slices.Equal(a.Loops, b.Loops) }
+	if !slices.EqualFunc(s.Cells, p.cells(), sameCell) || !slices.EqualFunc(s.Loops, p.nests(), sameNest) {
+		return value.View{}, api.ErrForm
+	}
+	return view, api.OK
+}
+
+// Options returns the codes of the options that a question offers (F10).
+func Options(f api.Form, seed, name string, row []int, s api.Scene) ([]int, api.Fault) {
+	p, fault := planOf(f)
+	if fault != api.OK {
+		return nil, fault
+	}
+	x := p.named[name]
+	if x == nil || !x.isCoded() {
+		return nil, api.ErrName
+	}
+	view, fault := p.viewOf(s)
+	if fault != api.OK {
+		return nil, fault
+	}
+	if fault := checkRow(row, x.loops); fault != api.OK {
+		return nil, fault
+	}
+	options, fault := inOrder(p.lists[x.item.Answer.List].Options, x.item.Answer.Shuffle, seedOf(seed, name, row))
+	if fault != api.OK {
+		return nil, fault
+	}
+	var codes []int
+	for _, option := range options {
+		isRefused := func(only api.Expr) bool {
+			v, _ := view.Eval(withOption(only, option.Code), x.loops, row)
+			return v.N == 0
+		}
+		if !slices.ContainsFunc(x.item.Answer.Only, isRefused) {
+			codes = append(codes, option.Code)
+		}
+	}
+	return codes, api.OK
+}
+
+// inOrder returns options in the order of a seed, if they are shuffled: those without Last among their places.
+func inOrder(options []api.Option, isShuffled bool, seed string) ([]api.Option, api.Fault) {
+	var places []int
+	for i, option := range options {
+		if !option.Last {
+			places = append(places, i)
+		}
+	}
+	order, fault := orderOf(len(places), isShuffled, seed)
+	if fault != api.OK {
+		return nil, fault
+	}
+	out := slices.Clone(options)
+	for i, n := range order {
+		out[places[i]] = options[places[n]]
+	}
+	return out, api.OK
+}
+
+// withOption returns an expression in which a code stands for the cell `option`. So the scene needs no Bound for it.
+func withOption(e api.Expr, code int) api.Expr {
+	constant := func(v api.Value) api.Expr { return api.Expr{Kind: api.XConst, Value: v} }
+	isOption := func(e api.Expr) bool { return e.Kind == api.XAnswer && e.Name == optionName }
+	if isOption(e) {
+		return constant(api.Value{Kind: api.Choice, N: code})
+	}
+	if e.Kind == api.XOp && isOption(e.Args[0]) {
+		switch e.Op {
+		case api.OpAnswered, api.OpAsked:
+			return constant(api.Value{Kind: api.Bool, N: 1})
+		case api.OpReason:
+			return constant(api.Value{Kind: api.Number})
+		}
+	}
+	args := make([]api.Expr, len(e.Args))
+	for i, arg := range e.Args {
+		args[i] = withOption(arg, code)
+	}
+	e.Args = args
+	return e
+}
+
+// Accept says whether a value can be the answer of a question that offers some options (F11).
+func Accept(f api.Form, name string, v api.Value, offered []int) api.Fault {
+	p, fault := planOf(f)
+	if fault != api.OK {
+		return fault
+	}
+	x := p.named[name]
+	if x == nil || x.item.Kind != api.ItemQuestion {
+		return api.ErrName
+	}
+	if fault := value.Check(v); fault != api.OK {
+		return fault
+	}
+	answer := x.item.Answer
+	switch v.Kind {
+	case api.Missing:
+		if answer.Need {
+			return api.ErrMissing
+		}
+		return api.OK
+	case api.Special:
+		if !slices.Contains(answer.Reasons, v.N) {
+			return api.ErrType
+		}
+		return api.OK
+	case answer.Kind:
+		return acceptSize(answer, v, offered, p.lists[answer.List].Options)
+	}
+	return api.ErrType
+}
+
+func acceptSize(answer api.Answer, v api.Value, offered []int, options []api.Option) api.Fault {
+	size := sizeOf(v)
+	if size < answer.Low || size > answer.High {
+		return api.ErrRange
+	}
+	if v.Kind == api.Number && v.N%smallest(answer.Places) != 0 {
+		return api.ErrForm
+	}
+	for _, code := range codesOf(v) {
+		if !slices.Contains(offered, code) {
+			return api.ErrNone
+		}
+	}
+	return acceptAlone(v, options)
+}
+
+// acceptAlone says ErrConflict if an option that is Alone was chosen with others.
+func acceptAlone(v api.Value, options []api.Option) api.Fault {
+	if len(v.Set) < 2 {
+		return api.OK
+	}
+	for _, option := range options {
+		if option.Alone && slices.Contains(v.Set, option.Code) {
+			return api.ErrConflict
+		}
+	}
+	return api.OK
+}
+
+// sizeOf returns what must be from Low to High; 0, which both are, of a Choice.
+func sizeOf(v api.Value) int {
+	switch v.Kind {
+	case api.Number, api.Day:
+		return v.N
+	case api.Text:
+		return len(v.S)
+	}
+	return len(v.Set)
+}
+
+func codesOf(v api.Value) []int {
+	if v.Kind == api.Choice {
+		return []int{v.N}
+	}
+	return v.Set
+}
+
+// smallest returns the least Number above 0 with so many digits behind the point.
+func smallest(places int) int {
+	n := 10000
+	for range places {
+		n /= 10
+	}
+	return n
+}
