@@ -160,10 +160,14 @@ func Accept(f api.Form, name string, v api.Value, offered []int) api.Fault {
 	if x == nil || x.item.Kind != api.ItemQuestion {
 		return api.ErrName
 	}
+	return AcceptBy(x.item.Answer, p.lists[x.item.Answer.List].Options, v, offered)
+}
+
+// AcceptBy is Accept for a question with an Answer, whose list has some options. With it, many values cost no more than they do: no form is checked.
+func AcceptBy(answer api.Answer, options []api.Option, v api.Value, offered []int) api.Fault {
 	if fault := value.Check(v); fault != api.OK {
 		return fault
 	}
-	answer := x.item.Answer
 	switch v.Kind {
 	case api.Missing:
 		if answer.Need {
@@ -176,7 +180,7 @@ func Accept(f api.Form, name string, v api.Value, offered []int) api.Fault {
 		}
 		return api.OK
 	case answer.Kind:
-		return acceptSize(answer, v, offered, p.lists[answer.List].Options)
+		return acceptSize(answer, v, offered, options)
 	}
 	return api.ErrType
 }

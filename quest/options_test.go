@@ -268,3 +268,20 @@ func TestAccept(t *testing.T) {
 		t.Error("Accept of a wrong form", fault)
 	}
 }
+
+// TestAcceptBy holds that the Answer and the options of a question are enough, as they are.
+func TestAcceptBy(t *testing.T) {
+	answer := api.Answer{Kind: api.Choices, High: 2, List: "nowhere", Reasons: []int{2}, Need: true}
+	options := []api.Option{{Code: 8, Alone: true}, {Code: 4}, {Code: 6}}
+	for _, x := range []struct {
+		v    api.Value
+		want api.Fault
+	}{
+		{choicesValue(), api.OK}, {choicesValue(8), api.OK}, {choicesValue(4, 6), api.OK}, {choicesValue(4, 8), api.ErrConflict}, {choicesValue(4, 6, 8), api.ErrRange}, {choicesValue(4, 5), api.ErrNone}, {choicesValue(6, 4), api.ErrOrder},
+		{specialValue(2), api.OK}, {specialValue(1), api.ErrType}, {api.Value{}, api.ErrMissing}, {choiceValue(4), api.ErrType}, {api.Value{Kind: 8}, api.ErrKind},
+	} {
+		if fault := AcceptBy(answer, options, x.v, []int{8, 6, 4}); fault != x.want {
+			t.Error("AcceptBy", x.v, fault)
+		}
+	}
+}
