@@ -82,3 +82,29 @@ func Rule(r api.Rule) api.Rule {
 	r.Must, r.Phrase = Expr(r.Must), slices.Clone(r.Phrase)
 	return r
 }
+
+func Key(k api.Key) api.Key {
+	k.Row = slices.Clone(k.Row)
+	return k
+}
+
+func Given(g api.Given) api.Given {
+	g.Key, g.Value = Key(g.Key), Value(g.Value)
+	return g
+}
+
+func Asked(a api.Asked) api.Asked {
+	a.Key, a.Page, a.Value = Key(a.Key), Key(a.Page), Value(a.Value)
+	a.Soft, a.Offered = slices.Clone(a.Soft), slices.Clone(a.Offered)
+	return a
+}
+
+func Route(r api.Route) api.Route {
+	r.Asked, r.Pages, r.Rows = List(r.Asked, Asked), List(r.Pages, Key), List(r.Rows, Rows)
+	return r
+}
+
+func Step(s api.Step) api.Step {
+	s.Given, s.Page = List(s.Given, Given), Key(s.Page)
+	return s
+}

@@ -82,5 +82,10 @@ func TestCopies(t *testing.T) {
 	holdCopy(t, "Item", Item)
 	holdCopy(t, "Answer", Answer)
 	holdCopy(t, "Rule", Rule)
+	holdCopy(t, "Key", Key)
+	holdCopy(t, "Given", Given)
+	holdCopy(t, "Asked", Asked)
+	holdCopy(t, "Route", Route)
+	holdCopy(t, "Step", Step)
 	holdCopy(t, "List", func(l []api.Value) []api.Value { return List(l, Value) })
 }

@@ -4,6 +4,7 @@ import (
 	"slices"
 
 	"canvass/api"
+	"canvass/quest"
 )
 
 // isPlain reports whether the form is plain (P1).
@@ -42,7 +43,7 @@ func (p *plan) isCondition(e api.Expr) bool {
 	case api.XConst:
 		return e.Value.Kind == api.Bool
 	case api.XAnswer:
-		return e.Name != optionName && p.named[e.Name].isCompute()
+		return e.Name != quest.OptionName && p.named[e.Name].isCompute()
 	case api.XOp:
 		return p.isPlainOp(e)
 	}
@@ -85,7 +86,7 @@ func (p *plan) kindOf(e api.Expr) int {
 	if e.Kind != api.XAnswer {
 		return 0
 	}
-	if e.Name == optionName {
+	if e.Name == quest.OptionName {
 		return api.Choice
 	}
 	return p.named[e.Name].item.Answer.Kind

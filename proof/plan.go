@@ -6,9 +6,6 @@ import (
 	"canvass/value"
 )
 
-// optionName is the cell that the condition of options sees. No item has this name.
-const optionName = "option"
-
 // plan is a plain form whose items are told by where they stand.
 type plan struct {
 	*pool
@@ -131,7 +128,7 @@ func (p *plan) spread(conditions []api.Expr) set {
 	out := emptySet(maxQuestions)
 	for _, e := range conditions {
 		for _, name := range value.Names(e) {
-			if name != optionName {
+			if name != quest.OptionName {
 				out = or(out, p.named[name].spreads)
 			}
 		}

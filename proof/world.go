@@ -3,6 +3,7 @@ package proof
 import (
 	"canvass/api"
 	"canvass/fresh"
+	"canvass/quest"
 	"canvass/value"
 )
 
@@ -105,7 +106,7 @@ func (w *world) isTrue(e api.Expr, option int) set {
 func (w *world) isTrueOf(e api.Expr, option int) set {
 	isTrueFor := func(v api.Value) bool { return holds(e, api.Bound{Value: v, Asked: true}) }
 	name := value.Names(e)[0]
-	if name == optionName {
+	if name == quest.OptionName {
 		return w.either(isTrueFor(api.Value{Kind: api.Choice, N: option}))
 	}
 	x := w.plan.named[name]

@@ -7,8 +7,8 @@ import (
 	"canvass/value"
 )
 
-// optionName is the cell that the condition of options sees. No item has this name.
-const optionName = "option"
+// OptionName is the cell that the condition of options sees. No item has this name.
+const OptionName = "option"
 
 // The parts of F3, in its order, follow.
 
@@ -116,7 +116,7 @@ func (p *plan) checkItem(x *entry) api.Fault {
 	if item.Kind < api.ItemPage || item.Kind > api.ItemEnd {
 		return api.ErrKind
 	}
-	if !value.IsName(item.Name) || item.Name == optionName {
+	if !value.IsName(item.Name) || item.Name == OptionName {
 		return api.ErrName
 	}
 	if p.named[item.Name] != nil {
@@ -212,7 +212,7 @@ func (p *plan) checkUses() api.Fault {
 			cells = append(cells, api.Cell{Name: x.item.Name, Kind: x.kind, Loops: x.loops})
 		}
 	}
-	sight, fault := value.SightOf(append(cells, api.Cell{Name: optionName, Kind: api.Choice}), p.nests())
+	sight, fault := value.SightOf(append(cells, api.Cell{Name: OptionName, Kind: api.Choice}), p.nests())
 	if fault != api.OK {
 		return fault
 	}
@@ -275,7 +275,7 @@ func (p *plan) checkLoop(x *entry) api.Fault {
 
 func (p *plan) checkQuestion(x *entry) api.Fault {
 	for _, only := range x.item.Answer.Only {
-		if fault := p.checkKind(only, api.Bool, x, optionName); fault != api.OK {
+		if fault := p.checkKind(only, api.Bool, x, OptionName); fault != api.OK {
 			return fault
 		}
 	}
@@ -388,7 +388,7 @@ func (p *plan) isNamed(part api.Expr, also string) bool {
 	named := p.named[part.Name]
 	switch part.Kind {
 	case api.XAnswer:
-		return named != nil && named.isCell() || part.Name == optionName && also == optionName
+		return named != nil && named.isCell() || part.Name == OptionName && also == OptionName
 	case api.XRow, api.XOver:
 		return named != nil && named.item.Kind == api.ItemLoop
 	}

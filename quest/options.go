@@ -21,15 +21,15 @@ func Arranged(f api.Form, seed, name string, row []int) ([]int, api.Fault) {
 	if fault := checkRow(row, x.loops); fault != api.OK {
 		return nil, fault
 	}
-	return orderOf(len(x.item.Items), x.item.Shuffle, seedOf(seed, name, row))
+	return ArrangedBy(x.item, seed, row)
 }
 
-// orderOf returns 0 .. n - 1, or, if they are shuffled, in the order of a seed.
-func orderOf(n int, isShuffled bool, seed string) ([]int, api.Fault) {
-	if isShuffled {
-		return value.Shuffle(seed, n)
+// ArrangedBy is Arranged for a block itself. With it, many orders cost no more than they do: no form is checked.
+func ArrangedBy(block api.Item, seed string, row []int) ([]int, api.Fault) {
+	if block.Shuffle {
+		return value.Shuffle(seedOf(seed, block.Name, row), len(block.Items))
 	}
-	order := make([]int, n)
+	order := make([]int, len(block.Items))
 	for i := range order {
 		order[i] = i
 	}
@@ -91,32 +91,43 @@ func Options(f api.Form, seed, name string, row []int, s api.Scene) ([]int, api.
 	if fault := checkRow(row, x.loops); fault != api.OK {
 		return nil, fault
 	}
-	options, fault := inOrder(p.lists[x.item.Answer.List].Options, x.item.Answer.Shuffle, seedOf(seed, name, row))
+	isOffered := func(code int) bool {
+		isFalse := func(only api.Expr) bool {
+			v, _ := view.Eval(withOption(only, code), x.loops, row)
+			return v.N == 0
+		}
+		return !slices.ContainsFunc(x.item.Answer.Only, isFalse)
+	}
+	return OptionsBy(x.item, p.lists[x.item.Answer.List].Options, seed, row, isOffered)
+}
+
+// OptionsBy is Options for a question itself, whose list has some options, where a function tells whether its Only is true for a code. With it, no form and no scene is checked.
+func OptionsBy(question api.Item, options []api.Option, seed string, row []int, isOffered func(code int) bool) ([]int, api.Fault) {
+	ordered, fault := inOrder(question, options, seed, row)
 	if fault != api.OK {
 		return nil, fault
 	}
-	var codes []int
-	for _, option := range options {
-		isRefused := func(only api.Expr) bool {
-			v, _ := view.Eval(withOption(only, option.Code), x.loops, row)
-			return v.N == 0
-		}
-		if !slices.ContainsFunc(x.item.Answer.Only, isRefused) {
+	codes := make([]int, 0, len(ordered))
+	for _, option := range ordered {
+		if isOffered(option.Code) {
 			codes = append(codes, option.Code)
 		}
 	}
 	return codes, api.OK
 }
 
-// inOrder returns options in the order of a seed, if they are shuffled: those without Last among their places.
-func inOrder(options []api.Option, isShuffled bool, seed string) ([]api.Option, api.Fault) {
+// inOrder returns the options of a question, with Shuffle those without Last in another order among their places.
+func inOrder(question api.Item, options []api.Option, seed string, row []int) ([]api.Option, api.Fault) {
+	if !question.Answer.Shuffle {
+		return options, api.OK
+	}
 	var places []int
 	for i, option := range options {
 		if !option.Last {
 			places = append(places, i)
 		}
 	}
-	order, fault := orderOf(len(places), isShuffled, seed)
+	order, fault := value.Shuffle(seedOf(seed, question.Name, row), len(places))
 	if fault != api.OK {
 		return nil, fault
 	}
@@ -130,7 +141,7 @@ func inOrder(options []api.Option, isShuffled bool, seed string) ([]api.Option, 
 // withOption returns an expression in which a code stands for the cell `option`. So the scene needs no Bound for it.
 func withOption(e api.Expr, code int) api.Expr {
 	constant := func(v api.Value) api.Expr { return api.Expr{Kind: api.XConst, Value: v} }
-	isOption := func(e api.Expr) bool { return e.Kind == api.XAnswer && e.Name == optionName }
+	isOption := func(e api.Expr) bool { return e.Kind == api.XAnswer && e.Name == OptionName }
 	if isOption(e) {
 		return constant(api.Value{Kind: api.Choice, N: code})
 	}

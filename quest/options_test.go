@@ -285,3 +285,48 @@ func TestAcceptBy(t *testing.T) {
 		}
 	}
 }
+
+// TestByItems holds that an item itself, with its options, is enough for the orders by chance.
+func TestByItems(t *testing.T) {
+	f := formOf(t, offeredText)
+	s := sceneOf(t, f)
+	options := f.Lists[0].Options
+	for _, seed := range []string{"", "a", "b"} {
+		for _, name := range []string{"steady", "turned", "inner", "empty", "rows"} {
+			block, loops, _ := Find(f, name)
+			row := []int{2, 3}[:len(loops)]
+			want, _ := Arranged(f, seed, name, row)
+			if got, fault := ArrangedBy(block, seed, row); !slices.Equal(got, want) || fault != api.OK {
+				t.Error("ArrangedBy", seed, name, got, fault)
+			}
+		}
+		for _, name := range []string{"plain", "mixed", "all"} {
+			question, _, _ := Find(f, name)
+			all, _ := Options(f, seed, name, nil, s)
+			for _, stay := range [][]int{{1, 2, 3, 4, 5, 7, 9}, {9, 1, 7}, {8}, nil} {
+				want := filtered(slices.Clone(all), stay...)
+				isOffered := func(code int) bool { return slices.Contains(stay, code) }
+				if got, fault := OptionsBy(question, options, seed, nil, isOffered); !slices.Equal(got, want) || fault != api.OK {
+					t.Error("OptionsBy", seed, name, stay, got, fault)
+				}
+			}
+		}
+	}
+	block := api.Item{Kind: api.ItemBlock, Shuffle: true, Items: make([]api.Item, api.MaxDraws+1)}
+	if got, fault := ArrangedBy(block, "", nil); len(got) > 0 || fault != api.ErrRange {
+		t.Error("ArrangedBy of too many items", fault)
+	}
+	question := api.Item{Kind: api.ItemQuestion, Answer: api.Answer{Shuffle: true}}
+	if got, fault := OptionsBy(question, make([]api.Option, api.MaxDraws+1), "", nil, func(int) bool { return true }); len(got) > 0 || fault != api.ErrRange {
+		t.Error("OptionsBy of too many options", fault)
+	}
+	// A row distinguishes the orders of rows.
+	question.Name = "x"
+	want, _ := value.Shuffle("s|x|1.20", 7)
+	got, fault := OptionsBy(question, []api.Option{{Code: 1}, {Code: 2}, {Code: 3}, {Code: 4}, {Code: 5}, {Code: 6}, {Code: 7}}, "s", []int{1, 20}, func(int) bool { return true })
+	for i := range want {
+		if fault != api.OK || got[i] != want[i]+1 {
+			t.Error("OptionsBy for a row", got, fault)
+		}
+	}
+}

@@ -12,7 +12,7 @@ func Eval(e api.Expr, s api.Scene, at []string, row []int) (api.Value, api.Fault
 	if fault != api.OK {
 		return api.Value{}, fault
 	}
-	return View{names, s}.Eval(e, at, row)
+	return View{names, still(s)}.Eval(e, at, row)
 }
 
 // meaning is an expression at a place: its value for the numbers of the rows there. It does not keep the row, and its values are not changed.
@@ -24,7 +24,7 @@ func (v View) meaningOf(e api.Expr, place []string) meaning {
 	case api.XConst:
 		return func([]int) api.Value { return e.Value }
 	case api.XAnswer:
-		bound := v.bound(e.Name)
+		bound := v.bound(v.cells[e.Name])
 		return func(row []int) api.Value { return answer(bound(row)) }
 	case api.XRow:
 		i := slices.Index(place, e.Name)
@@ -33,7 +33,7 @@ func (v View) meaningOf(e api.Expr, place []string) meaning {
 		return v.over(e)
 	}
 	if isAboutAnswer(e.Op) {
-		bound := v.bound(e.Args[0].Name)
+		bound := v.bound(v.cells[e.Args[0].Name])
 		return func(row []int) api.Value { return aboutAnswer(e.Op, bound(row)) }
 	}
 	args := make([]meaning, len(e.Args))
@@ -41,33 +41,13 @@ func (v View) meaningOf(e api.Expr, place []string) meaning {
 		args[i] = v.meaningOf(arg, place)
 	}
 	return func(row []int) api.Value {
-		values := make([]api.Value, len(args))
-		for i, arg := range args {
-			values[i] = arg(row)
+		var room [3]api.Value // most operations need no more, and so no memory of their own
+		values := room[:0]
+		for _, arg := range args {
+			values = append(values, arg(row))
 		}
 		return operate(e.Op, values)
 	}
-}
-
-// bound returns a function that tells the Bound for which a name stands; the zero Bound, if there is none.
-func (v View) bound(name string) func(row []int) api.Bound {
-	loops := len(v.cells[name].Loops)
-	return func(row []int) api.Bound {
-		want := api.Bound{Name: name, Row: row[:loops]}
-		i, found := slices.BinarySearchFunc(v.scene.Bounds, want, compareBounds)
-		if !found {
-			return api.Bound{}
-		}
-		return v.scene.Bounds[i]
-	}
-}
-
-func (v View) numbers(loop string, row []int) []int {
-	i, found := slices.BinarySearchFunc(v.scene.Rows, api.Rows{Loop: loop, Row: row}, compareRows)
-	if !found {
-		return nil
-	}
-	return v.scene.Rows[i].Numbers
 }
 
 // answer returns the value of a cell, Missing if it is missing.
@@ -91,25 +71,25 @@ func aboutAnswer(op int, bound api.Bound) api.Value {
 	return number(0)
 }
 
-// over returns the meaning of an XOver. It depends only on the rows around its loop. These come in order, so it is enough to remember the last value, and aggregates within aggregates over the same rows are not computed for each row anew.
+// over returns the meaning of an XOver. It depends only on the rows around its loop. These come in order, so it is enough to remember the last value as long as the source has not changed, and aggregates within aggregates over the same rows are not computed for each row anew.
 func (v View) over(e api.Expr) meaning {
 	loop := v.loops[e.Name]
-	arg := v.meaningOf(e.Args[0], within(loop))
+	numbers, arg := v.numbers(loop), v.meaningOf(e.Args[0], within(loop))
 	var lastRow []int
 	var last api.Value
-	known := false
+	lastChange := -1
 	return func(row []int) api.Value {
 		around := row[:len(loop.Loops)]
-		if known && slices.Equal(around, lastRow) {
+		if lastChange == v.changes() && slices.Equal(around, lastRow) {
 			return last
 		}
 		inner := append(slices.Clone(around), 0)
 		var values []api.Value
-		for _, n := range v.numbers(e.Name, around) {
+		for _, n := range numbers(around) {
 			inner[len(around)] = n
 			values = append(values, arg(inner))
 		}
-		last, lastRow, known = aggregate(e.Op, values), slices.Clone(around), true
+		last, lastRow, lastChange = aggregate(e.Op, values), slices.Clone(around), v.changes()
 		return last
 	}
 }

@@ -1,6 +1,8 @@
 package value
 
 import (
+	"slices"
+
 	"canvass/api"
 	"canvass/fresh"
 )
@@ -33,8 +35,44 @@ func (s Sight) TypeOf(e api.Expr, at []string) (int, api.Fault) {
 // View is a scene that CheckScene accepts. With one, the values of many expressions cost no more than they do.
 type View struct {
 	Sight
-	scene api.Scene
+	source
 }
+
+// source is where a view finds what is bound.
+type source interface {
+	// bound returns a function that tells the Bound for which a cell stands at a row; the zero Bound, if there is none.
+	bound(cell api.Cell) func(row []int) api.Bound
+	// numbers returns a function that tells the Numbers of a loop for the rows around it.
+	numbers(loop api.Nest) func(row []int) []int
+	// changes tells how often the source has changed.
+	changes() int
+}
+
+// still is a source that is a scene.
+type still api.Scene
+
+func (s still) bound(cell api.Cell) func(row []int) api.Bound {
+	return func(row []int) api.Bound {
+		want := api.Bound{Name: cell.Name, Row: row[:len(cell.Loops)]}
+		i, found := slices.BinarySearchFunc(s.Bounds, want, compareBounds)
+		if !found {
+			return api.Bound{}
+		}
+		return s.Bounds[i]
+	}
+}
+
+func (s still) numbers(loop api.Nest) func(row []int) []int {
+	return func(row []int) []int {
+		i, found := slices.BinarySearchFunc(s.Rows, api.Rows{Loop: loop.Name, Row: row}, compareRows)
+		if !found {
+			return nil
+		}
+		return s.Rows[i].Numbers
+	}
+}
+
+func (s still) changes() int { return 0 }
 
 // ViewOf returns the view of a scene, or the error of CheckScene.
 func ViewOf(s api.Scene) (View, api.Fault) {
@@ -43,7 +81,7 @@ func ViewOf(s api.Scene) (View, api.Fault) {
 	if fault != api.OK {
 		return View{}, fault
 	}
-	return View{names, own}, api.OK
+	return View{names, still(own)}, api.OK
 }
 
 // Eval is the function Eval for the scene of a view.
@@ -52,15 +90,32 @@ func (v View) Eval(e api.Expr, at []string, row []int) (api.Value, api.Fault) {
 	if fault != api.OK {
 		return api.Value{}, fault
 	}
-	if fault := checkRow(row, at); fault != api.OK {
-		return api.Value{}, fault
+	return v.toldBy(e, kind, at)(row)
+}
+
+// Meaning returns a function that does what Eval does for an expression at a place, without checking it each time anew; or the error of TypeOf.
+func (v View) Meaning(e api.Expr, at []string) (func(row []int) (api.Value, api.Fault), api.Fault) {
+	kind, fault := v.TypeOf(e, at)
+	if fault != api.OK {
+		return nil, fault
 	}
-	value := v.meaningOf(e, at)(row)
-	switch {
-	case !isMissing(value):
-		return fresh.Value(value), api.OK
-	case kind == api.Bool:
-		return boolean(false), api.OK
+	return v.toldBy(fresh.Expr(e), kind, slices.Clone(at)), api.OK
+}
+
+// toldBy returns a function that tells the value, by V12, of an expression which has a kind at a place.
+func (v View) toldBy(e api.Expr, kind int, at []string) func(row []int) (api.Value, api.Fault) {
+	meaning := v.meaningOf(e, at)
+	return func(row []int) (api.Value, api.Fault) {
+		if fault := checkRow(row, at); fault != api.OK {
+			return api.Value{}, fault
+		}
+		value := meaning(row)
+		switch {
+		case !isMissing(value):
+			return fresh.Value(value), api.OK
+		case kind == api.Bool:
+			return boolean(false), api.OK
+		}
+		return api.Value{}, api.OK
 	}
-	return api.Value{}, api.OK
 }

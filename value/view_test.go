@@ -86,7 +86,7 @@ func TestView(t *testing.T) {
 	if got, fault := v.Eval(e, nil, nil); !equal(got, want) || fault != api.OK {
 		t.Error("a view keeps what it was given", got, fault)
 	}
-	if v, fault := ViewOf(s); fault != api.ErrName || v.scene.Cells != nil || v.cells != nil {
+	if v, fault := ViewOf(s); fault != api.ErrName || v.source != nil || v.cells != nil {
 		t.Error("ViewOf of a wrong scene", fault)
 	}
 	set := api.Scene{Cells: []api.Cell{{Name: "s", Kind: api.Choices}}, Bounds: []api.Bound{{Name: "s", Value: choices(1, 2), Asked: true}}}
