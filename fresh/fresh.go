@@ -108,3 +108,8 @@ func Step(s api.Step) api.Step {
 	s.Given, s.Page = List(s.Given, Given), Key(s.Page)
 	return s
 }
+
+func Event(e api.Event) api.Event {
+	e.Given = List(e.Given, Given)
+	return e
+}

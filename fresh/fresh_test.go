@@ -87,5 +87,6 @@ func TestCopies(t *testing.T) {
 	holdCopy(t, "Asked", Asked)
 	holdCopy(t, "Route", Route)
 	holdCopy(t, "Step", Step)
+	holdCopy(t, "Event", Event)
 	holdCopy(t, "List", func(l []api.Value) []api.Value { return List(l, Value) })
 }

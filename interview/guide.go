@@ -9,9 +9,8 @@ import (
 	"canvass/value"
 )
 
-// guide is a form made ready to be gone along, often, with a seed.
+// guide is a form made ready to be gone along, often, with any seeds.
 type guide struct {
-	seed    string
 	blank   api.Scene
 	lists   map[string][]api.Option
 	entries []*entry // in the order of F1
@@ -30,13 +29,22 @@ type entry struct {
 // visit goes along an item at the row at hand, and reports whether the route goes on behind it.
 type visit func(t *trip) bool
 
-// guideOf returns the guide of a form, or the errors that all functions with a form have first.
-func guideOf(f api.Form, seed string) (*guide, api.Fault) {
-	blank, fault := quest.Blank(f)
+// guideFor returns the guide of a form, or the errors that all functions with a form and a seed have first.
+func guideFor(f api.Form, seed string) (*guide, api.Fault) {
+	g, fault := guideOf(f)
 	if fault != api.OK {
 		return nil, fault
 	}
-	if fault := checkSeed(seed); fault != api.OK {
+	if fault := CheckSeed(seed); fault != api.OK {
+		return nil, fault
+	}
+	return g, api.OK
+}
+
+// guideOf returns the guide of a form, or the error of quest.Check for it.
+func guideOf(f api.Form) (*guide, api.Fault) {
+	blank, fault := quest.Blank(f)
+	if fault != api.OK {
 		return nil, fault
 	}
 	option := api.Cell{Name: quest.OptionName, Kind: api.Choice}
@@ -44,7 +52,7 @@ func guideOf(f api.Form, seed string) (*guide, api.Fault) {
 	if fault != api.OK {
 		return nil, fault
 	}
-	g := &guide{seed: seed, blank: blank, lists: map[string][]api.Option{}, named: map[string]*entry{}, board: board}
+	g := &guide{blank: blank, lists: map[string][]api.Option{}, named: map[string]*entry{}, board: board}
 	own := fresh.Form(f)
 	for _, list := range own.Lists {
 		g.lists[list.Name] = list.Options
@@ -53,7 +61,8 @@ func guideOf(f api.Form, seed string) (*guide, api.Fault) {
 	return g, api.OK
 }
 
-func checkSeed(seed string) api.Fault {
+// CheckSeed says whether a text can be the seed of an interview.
+func CheckSeed(seed string) api.Fault {
 	if len(seed) > api.MaxSeed {
 		return api.ErrLarge
 	}
@@ -146,7 +155,7 @@ func (g *guide) page(x *entry) visit {
 func (g *guide) block(x *entry) visit {
 	visits := g.visits(x.Items, x.loops)
 	return func(t *trip) bool {
-		order, _ := quest.ArrangedBy(x.Item, g.seed, t.row)
+		order, _ := quest.ArrangedBy(x.Item, t.seed, t.row)
 		for _, n := range order {
 			if !visits[n](t) {
 				return false

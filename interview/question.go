@@ -10,7 +10,7 @@ func (g *guide) question(x *entry) visit {
 	offered, unmet := g.offered(x), g.unmet(x)
 	return func(t *trip) bool {
 		a := t.ask(x)
-		a.Offered = offered(t.row)
+		a.Offered = offered(t)
 		if v := t.given[placeAt(x, t.row)]; g.accept(x, v, a.Offered) == api.OK {
 			a.Value = fresh.Value(v)
 		}
@@ -33,9 +33,9 @@ func (g *guide) accept(x *entry, v api.Value, offered []int) api.Fault {
 }
 
 // offered returns a function that tells the codes of the options that a question offers.
-func (g *guide) offered(x *entry) func(row []int) []int {
+func (g *guide) offered(x *entry) func(t *trip) []int {
 	if x.Answer.Kind != api.Choice && x.Answer.Kind != api.Choices {
-		return func([]int) []int { return nil }
+		return func(*trip) []int { return nil }
 	}
 	options := g.lists[x.Answer.List]
 	isOffered := func(row []int, code int) bool { return true }
@@ -46,8 +46,8 @@ func (g *guide) offered(x *entry) func(row []int) []int {
 			return only(row)
 		}
 	}
-	return func(row []int) []int {
-		codes, _ := quest.OptionsBy(x.Item, options, g.seed, row, func(code int) bool { return isOffered(row, code) })
+	return func(t *trip) []int {
+		codes, _ := quest.OptionsBy(x.Item, options, t.seed, t.row, func(code int) bool { return isOffered(t.row, code) })
 		return codes
 	}
 }

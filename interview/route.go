@@ -12,6 +12,7 @@ import (
 
 // trip is a way along a form.
 type trip struct {
+	seed  string
 	given map[place]api.Value
 	route api.Route
 	row   []int   // at hand
@@ -19,10 +20,10 @@ type trip struct {
 	fault api.Fault
 }
 
-// routeOf returns the route for given answers, or its error ErrLarge (I2). room is how many elements Asked may be expected to have.
-func (g *guide) routeOf(given map[place]api.Value, room int) (api.Route, api.Fault) {
+// routeOf returns the route for a seed and given answers, or its error ErrLarge (I2). room is how many elements Asked may be expected to have.
+func (g *guide) routeOf(seed string, given map[place]api.Value, room int) (api.Route, api.Fault) {
 	g.board.Clear()
-	t := &trip{given: given, route: api.Route{Asked: make([]api.Asked, 0, min(room, api.MaxRoute))}}
+	t := &trip{seed: seed, given: given, route: api.Route{Asked: make([]api.Asked, 0, min(room, api.MaxRoute))}}
 	g.start(t)
 	if t.fault != api.OK {
 		return api.Route{}, t.fault

@@ -139,7 +139,7 @@ func (i *Interview) give(l []api.Given, mayGive func(route api.Route, page api.K
 		if a.Value.Kind == api.Missing {
 			delete(given, i.placeOf(a.Key))
 		}
-		next, fault := i.routeOf(given, len(route.Asked))
+		next, fault := i.routeOf(i.seed, given, len(route.Asked))
 		if fault != api.OK {
 			return fault
 		}
