@@ -45,11 +45,10 @@ func (s steps) second(a, b []uint64) []uint64 {
 }
 
 func (s steps) combine(a []uint64, aTimes uint64, b []uint64, bTimes uint64) []uint64 {
-	more, less := timesPlus(a, aTimes, 0), timesPlus(b, bTimes, 0)
 	if s.odd {
-		more, less = less, more
+		a, aTimes, b, bTimes = b, bTimes, a, aTimes
 	}
-	return difference(more, less)
+	return timesLess(a, aTimes, b, bTimes)
 }
 
 // stepsOf makes steps with the highest 64 bits of a, and the bits of b at the same places. A step counts if the condition of Collins holds behind it: then its quotient is that of the whole numbers. a is not less than b, which has at least two limbs.

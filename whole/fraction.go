@@ -9,23 +9,34 @@ func Over(num, den Int) Fraction {
 	if den.below {
 		divisor = divisor.Minus()
 	}
-	num, _ = num.Divide(divisor)
-	den, _ = den.Divide(divisor)
-	return Fraction{num, den}
+	return Fraction{num.part(divisor), den.part(divisor)}
 }
 
-// Plus returns f + g.
+// Plus returns f + g. What divides numerator and denominator of the sum divides both denominators, so no divisor is looked for in numbers as long as the sum.
 func (f Fraction) Plus(g Fraction) Fraction {
-	return Over(f.Num.Times(g.Den).Plus(g.Num.Times(f.Den)), f.Den.Times(g.Den))
+	divisor := Common(f.Den, g.Den)
+	rest := f.Den.part(divisor)
+	num := f.Num.Times(g.Den.part(divisor)).Plus(g.Num.Times(rest))
+	divisor = Common(num, divisor)
+	return Fraction{num.part(divisor), rest.Times(g.Den.part(divisor))}
 }
 
-// Times returns f * g.
+// Minus returns the opposite.
+func (f Fraction) Minus() Fraction { return Fraction{f.Num.Minus(), f.Den} }
+
+// Times returns f * g: each numerator is in lowest terms with its own denominator already.
 func (f Fraction) Times(g Fraction) Fraction {
-	return Over(f.Num.Times(g.Num), f.Den.Times(g.Den))
+	first, second := Common(f.Num, g.Den), Common(g.Num, f.Den)
+	return Fraction{f.Num.part(first).Times(g.Num.part(second)), f.Den.part(second).Times(g.Den.part(first))}
 }
 
 // Inverse returns 1 / f; f is not 0.
-func (f Fraction) Inverse() Fraction { return Over(f.Den, f.Num) }
+func (f Fraction) Inverse() Fraction {
+	if f.Num.below {
+		return Fraction{f.Den.Minus(), f.Num.Minus()}
+	}
+	return Fraction{f.Den, f.Num}
+}
 
 // Compare returns -1, 0 or 1 as f is less than g, equal to it, or greater.
 func (f Fraction) Compare(g Fraction) int {
@@ -33,10 +44,13 @@ func (f Fraction) Compare(g Fraction) int {
 }
 
 // Nearest returns the whole number nearest to f, of two equally near ones the one further from 0.
-func (f Fraction) Nearest() Int {
-	quotient, rest := f.Num.Divide(f.Den)
-	if rest.Size().Times(Of(2)).Compare(f.Den) < 0 {
+func (f Fraction) Nearest() Int { return Nearest(f.Num, f.Den) }
+
+// Nearest returns the whole number nearest to num / den, of two equally near ones the one further from 0. den is greater than 0.
+func Nearest(num, den Int) Int {
+	quotient, rest := num.Divide(den)
+	if size := rest.Size(); size.Plus(size).Compare(den) < 0 {
 		return quotient
 	}
-	return quotient.Plus(Of(f.Num.Sign()))
+	return quotient.Plus(Of(num.Sign()))
 }

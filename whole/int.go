@@ -1,7 +1,10 @@
 // Package whole has whole numbers of any size, and fractions of them. It knows nothing of canvass: package value and the layers above it compute with it what api.Ratio writes as texts.
 package whole
 
-import "slices"
+import (
+	"math/bits"
+	"slices"
+)
 
 // Int is a whole number; the zero Int is 0. No Int is changed once it is made, so Ints can share memory.
 type Int struct {
@@ -24,6 +27,9 @@ func Of(n int) Int {
 // Power returns 10 to the power of exponent, which is not less than 0.
 func Power(exponent int) Int {
 	limbs := []uint64{1}
+	for ; exponent >= chunk; exponent -= chunk {
+		limbs = timesPlus(limbs, chunkPower, 0)
+	}
 	for range exponent {
 		limbs = timesPlus(limbs, 10, 0)
 	}
@@ -93,6 +99,23 @@ func (n Int) Equal(m Int) bool {
 func (n Int) Divide(m Int) (Int, Int) {
 	quotient, rest := divide(n.limbs, m.limbs)
 	return withSign(n.below != m.below, quotient), withSign(n.below, rest)
+}
+
+// part returns n / m, where m divides n. Most divisors of fractions are 1, so that one is not divided by.
+func (n Int) part(m Int) Int {
+	if m.Equal(Of(1)) {
+		return n
+	}
+	quotient, _ := n.Divide(m)
+	return quotient
+}
+
+// Bits returns how many digits to the base 2 the absolute value has; 0 if n is 0.
+func (n Int) Bits() int {
+	if len(n.limbs) == 0 {
+		return 0
+	}
+	return 64*(len(n.limbs)-1) + bits.Len64(n.limbs[len(n.limbs)-1])
 }
 
 // Common returns the greatest number that divides both n and m; 0 if both are 0.

@@ -67,13 +67,37 @@ func difference(a, b []uint64) []uint64 {
 func timesPlus(a []uint64, factor, more uint64) []uint64 {
 	out := make([]uint64, len(a)+1)
 	for i, limb := range a {
-		high, low := bits.Mul64(limb, factor)
-		var carry uint64
-		out[i], carry = bits.Add64(low, more, 0)
-		more = high + carry
+		out[i], more = stepTimes(limb, factor, more)
 	}
 	out[len(a)] = more
 	return trim(out)
+}
+
+// timesLess returns a * aTimes - b * bTimes, which is not less than 0 and has no more limbs than the longer one of a and b.
+func timesLess(a []uint64, aTimes uint64, b []uint64, bTimes uint64) []uint64 {
+	size := max(len(a), len(b))
+	out := make([]uint64, size)
+	var more, less, borrow uint64
+	for i := range out {
+		var plus, minus uint64
+		if i < len(a) {
+			plus = a[i]
+		}
+		if i < len(b) {
+			minus = b[i]
+		}
+		plus, more = stepTimes(plus, aTimes, more)
+		minus, less = stepTimes(minus, bTimes, less)
+		out[i], borrow = bits.Sub64(plus, minus, borrow)
+	}
+	return trim(out)
+}
+
+// stepTimes returns the lower and the higher limb of limb * factor + more.
+func stepTimes(limb, factor, more uint64) (uint64, uint64) {
+	high, low := bits.Mul64(limb, factor)
+	low, carry := bits.Add64(low, more, 0)
+	return low, high + carry
 }
 
 func product(a, b []uint64) []uint64 {
@@ -91,9 +115,8 @@ func product(a, b []uint64) []uint64 {
 func addTimes(a, b []uint64, factor uint64) uint64 {
 	var more uint64
 	for i, limb := range b {
-		high, low := bits.Mul64(limb, factor)
-		low, carry := bits.Add64(low, more, 0)
-		high += carry
+		low, high := stepTimes(limb, factor, more)
+		var carry uint64
 		a[i], carry = bits.Add64(a[i], low, 0)
 		more = high + carry
 	}
@@ -104,9 +127,8 @@ func addTimes(a, b []uint64, factor uint64) uint64 {
 func subtractTimes(a, b []uint64, factor uint64) bool {
 	var more uint64
 	for i, limb := range b {
-		high, low := bits.Mul64(limb, factor)
-		low, carry := bits.Add64(low, more, 0)
-		high += carry
+		low, high := stepTimes(limb, factor, more)
+		var carry uint64
 		a[i], carry = bits.Sub64(a[i], low, 0)
 		more = high + carry
 	}
@@ -136,14 +158,19 @@ func divideShort(a []uint64, divisor uint64) ([]uint64, uint64) {
 	return trim(out), rest
 }
 
-// divideLong divides by at least two limbs. The highest bit of the divisor is made 1, since each limb of the quotient that is guessed from the highest limbs is then at most 2 too great.
+// divideLong divides by at least two limbs.
 func divideLong(a, b []uint64) ([]uint64, []uint64) {
 	shift := bits.LeadingZeros64(b[len(b)-1])
-	divisor := trim(shiftUp(b, shift))
 	rest := shiftUp(a, shift)
-	out := make([]uint64, len(a)-len(b)+1)
+	quotient := divideIn(rest, trim(shiftUp(b, shift)))
+	return quotient, shiftDown(trim(rest), shift)
+}
+
+// divideIn returns rest / divisor, rounded down, and leaves the rest in place. The highest bit of the divisor is 1, since each limb of the quotient that is guessed from the highest limbs is then at most 2 too great. rest has more limbs, and as many of its highest ones as the divisor has are less than it.
+func divideIn(rest, divisor []uint64) []uint64 {
+	out := make([]uint64, len(rest)-len(divisor))
 	for i := len(out) - 1; i >= 0; i-- {
-		part := rest[i : i+len(b)+1]
+		part := rest[i : i+len(divisor)+1]
 		guess := guessLimb(part, divisor)
 		below := subtractTimes(part, divisor, guess)
 		for below {
@@ -152,7 +179,7 @@ func divideLong(a, b []uint64) ([]uint64, []uint64) {
 		}
 		out[i] = guess
 	}
-	return trim(out), shiftDown(trim(rest), shift)
+	return trim(out)
 }
 
 // guessLimb divides the two highest limbs of part by the highest one of divisor, as far as the result is one limb.

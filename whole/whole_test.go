@@ -50,6 +50,9 @@ func TestPairs(t *testing.T) {
 			same(t, "Less", a.Less(b), new(big.Int).Sub(x, y))
 			same(t, "Times", a.Times(b), new(big.Int).Mul(x, y))
 			same(t, "Common", Common(a, b), new(big.Int).GCD(nil, nil, new(big.Int).Abs(x), new(big.Int).Abs(y)))
+			if a.Bits() != x.BitLen() {
+				t.Fatal("Bits", x)
+			}
 			if a.Compare(b) != x.Cmp(y) || a.Equal(b) != (x.Cmp(y) == 0) {
 				t.Fatal("Compare", x, y)
 			}
@@ -119,8 +122,9 @@ func TestSmall(t *testing.T) {
 	for _, n := range []int{0, 1, -1, 42, -1 << 63, 1<<63 - 1} {
 		same(t, "Of", Of(n), big.NewInt(int64(n)))
 	}
-	same(t, "Power", Power(0), big.NewInt(1))
-	same(t, "Power", Power(20), new(big.Int).Exp(big.NewInt(10), big.NewInt(20), nil))
+	for _, exponent := range []int{0, 1, 12, 18, 19, 20, 37, 38, 39, 100, 4100} {
+		same(t, "Power", Power(exponent), new(big.Int).Exp(big.NewInt(10), big.NewInt(int64(exponent)), nil))
+	}
 	if Of(-3).Sign() != -1 || Of(0).Sign() != 0 || Of(3).Sign() != 1 || Of(0).Minus().Sign() != 0 {
 		t.Error("Sign")
 	}
@@ -148,24 +152,92 @@ func TestFractions(t *testing.T) {
 	}
 }
 
+// sameFraction holds that a fraction is the number in lowest terms.
+func sameFraction(t *testing.T, what string, got Fraction, want *big.Rat) {
+	t.Helper()
+	same(t, what+", Num", got.Num, want.Num())
+	same(t, what+", Den", got.Den, want.Denom())
+}
+
 func TestFractionsByBig(t *testing.T) {
 	r := rand.New(rand.NewSource(4))
+	// Powers of small numbers as denominators have much in common.
 	pick := func() (Fraction, *big.Rat) {
-		num, den := r.Intn(2000)-1000, 1+r.Intn(1000)
-		return Over(Of(num), Of(den)), big.NewRat(int64(num), int64(den))
+		num, den := int64(r.Intn(2000)-1000), int64(1+r.Intn(1000))
+		x := big.NewRat(num, den)
+		for range r.Intn(60) {
+			x.Mul(x, big.NewRat(int64(1+r.Intn(12)), int64(1+r.Intn(12))))
+		}
+		return Over(ofBig(t, x.Num()), ofBig(t, x.Denom())), x
 	}
-	for range 2000 {
+	for range 4000 {
 		a, x := pick()
 		b, y := pick()
-		for _, c := range []struct {
-			got  Fraction
-			want *big.Rat
-		}{{a.Plus(b), new(big.Rat).Add(x, y)}, {a.Times(b), new(big.Rat).Mul(x, y)}} {
-			same(t, "Num", c.got.Num, c.want.Num())
-			same(t, "Den", c.got.Den, c.want.Denom())
+		sameFraction(t, "Plus", a.Plus(b), new(big.Rat).Add(x, y))
+		sameFraction(t, "Times", a.Times(b), new(big.Rat).Mul(x, y))
+		sameFraction(t, "Minus", a.Minus(), new(big.Rat).Neg(x))
+		sameFraction(t, "a and its opposite", a.Plus(a.Minus()), new(big.Rat))
+		if x.Sign() != 0 {
+			sameFraction(t, "Inverse", a.Inverse(), new(big.Rat).Inv(x))
+			sameFraction(t, "a and its inverse", a.Times(a.Inverse()), big.NewRat(1, 1))
 		}
 		if a.Compare(b) != x.Cmp(y) {
 			t.Fatal("Compare", x, y)
+		}
+	}
+}
+
+// nearest returns the whole number nearest to num / den by math/big, of two the one further from 0.
+func nearest(num, den *big.Int) *big.Int {
+	size := new(big.Int).Abs(num)
+	size.Add(size.Lsh(size, 1), den)
+	size.Quo(size, new(big.Int).Lsh(den, 1))
+	if num.Sign() < 0 {
+		size.Neg(size)
+	}
+	return size
+}
+
+func TestScales(t *testing.T) {
+	r := rand.New(rand.NewSource(5))
+	l := samples(r)
+	for _, num := range l {
+		for _, den := range l {
+			if num.Sign() < 0 || den.Sign() <= 0 {
+				continue
+			}
+			// One scale multiplies small and great numbers in turn.
+			scale := ScaleOf(ofBig(t, num), ofBig(t, den))
+			for range 12 {
+				n := l[r.Intn(len(l))]
+				times := new(big.Int).Mul(n, num)
+				same(t, "Nearest", Nearest(ofBig(t, times), ofBig(t, den)), nearest(times, den))
+				if n.Sign() >= 0 {
+					same(t, "Nearest of a scale", scale.Nearest(ofBig(t, n)), nearest(times, den))
+				}
+			}
+		}
+	}
+	for _, x := range []struct{ n, num, den, want int }{{1, 1, 2, 1}, {3, 1, 2, 2}, {5, 1, 4, 1}, {6, 1, 4, 2}, {7, 1, 4, 2}, {0, 7, 3, 0}, {7, 0, 3, 0}, {7, 3, 7, 3}} {
+		same(t, "Nearest of a scale", ScaleOf(Of(x.num), Of(x.den)).Nearest(Of(x.n)), big.NewInt(int64(x.want)))
+	}
+}
+
+func TestSums(t *testing.T) {
+	r := rand.New(rand.NewSource(6))
+	l := samples(r)
+	for range 200 {
+		var sum Sum
+		want := new(big.Int)
+		for range 30 {
+			n := new(big.Int).Abs(l[r.Intn(len(l))])
+			before, told := sum.Int(), want.String()
+			sum.Add(ofBig(t, n))
+			want.Add(want, n)
+			same(t, "Sum", sum.Int(), want)
+			if before.Text() != told {
+				t.Fatal("a sum changes what it has told", told, n)
+			}
 		}
 	}
 }
