@@ -25,12 +25,7 @@ func planOf(p api.Plan) (*plan, api.Fault) {
 	if len(p.Quotas) > api.MaxCells {
 		return nil, api.ErrLarge
 	}
-	blank := guide.Blank()
-	board, fault := value.BoardOf(blank.Cells, blank.Loops)
-	if fault != api.OK {
-		return nil, fault
-	}
-	ready, names := &plan{Guide: guide, board: board}, map[string]bool{}
+	ready, names := &plan{Guide: guide, board: guide.Board()}, map[string]bool{}
 	for _, q := range p.Quotas {
 		if fault := ready.addQuota(q, names); fault != api.OK {
 			return nil, fault
@@ -91,13 +86,7 @@ func (p *plan) cellOf(route api.Route) int {
 	if len(p.conds) == 0 {
 		return -1
 	}
-	p.board.Clear()
-	for _, a := range route.Asked {
-		p.board.Bind(api.Bound{Name: a.Key.Name, Row: a.Key.Row, Value: a.Value, Asked: true})
-	}
-	for _, rows := range route.Rows {
-		p.board.Set(rows)
-	}
+	interview.Lay(route, p.board)
 	return slices.IndexFunc(p.conds, func(isTrue func() bool) bool { return isTrue() })
 }
 

@@ -3,6 +3,7 @@ package interview
 import (
 	"canvass/api"
 	"canvass/fresh"
+	"canvass/value"
 )
 
 // Guide is a form made ready to be gone along. With one, many routes, for whatever seeds, cost no more than they do: no form is checked each time anew.
@@ -22,6 +23,24 @@ func GuideOf(f api.Form) (Guide, api.Fault) {
 
 // Blank is quest.Blank for the form of a guide.
 func (g Guide) Blank() api.Scene { return fresh.Scene(g.blank) }
+
+// Board returns a board of the cells and loops of the form of a guide, where nothing is bound yet.
+func (g Guide) Board() value.Board {
+	// These are the cells and loops of a right form, so there is no error.
+	board, _ := value.BoardOf(g.blank.Cells, g.blank.Loops)
+	return board
+}
+
+// Lay makes a board the scene behind a route of its form.
+func Lay(route api.Route, board value.Board) {
+	board.Clear()
+	for _, a := range route.Asked {
+		board.Bind(api.Bound{Name: a.Key.Name, Row: a.Key.Row, Value: a.Value, Asked: true})
+	}
+	for _, rows := range route.Rows {
+		board.Set(rows)
+	}
+}
 
 // AnswersOf returns given answers by their keys, or the errors that they have if they are not sound (I1).
 func (g Guide) AnswersOf(given []api.Given) (Answers, api.Fault) {

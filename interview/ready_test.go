@@ -9,6 +9,7 @@ import (
 
 	"canvass/api"
 	"canvass/quest"
+	"canvass/value"
 )
 
 // TestGuideByChance holds that one guide tells for many seeds and answers, in turn, what the functions tell.
@@ -23,9 +24,11 @@ func TestGuideByChance(t *testing.T) {
 		if fault != api.OK {
 			t.Fatal("GuideOf", fault)
 		}
+		board := g.Board()
 		for turn := range 6 {
 			seed, given := fmt.Sprint("s", turn%3), randomAnswers(r, f)
 			holdGuide(t, g, f, seed, given)
+			holdBoard(t, g, board, f, seed, given)
 		}
 	}
 }
@@ -46,6 +49,44 @@ func holdGuide(t *testing.T, g Guide, f api.Form, seed string, given []api.Given
 	}
 	if data, fault := Data(f, seed, given); fault == api.OK && answersText(data) != answersText(g.DataOf(route)) {
 		t.Error("DataOf", answersText(g.DataOf(route)), "not", answersText(data))
+	}
+}
+
+// holdBoard holds that a board on which a route is laid is the scene behind it.
+func holdBoard(t *testing.T, g Guide, board value.Board, f api.Form, seed string, given []api.Given) {
+	t.Helper()
+	scene, fault := SceneOf(f, seed, given)
+	if fault != api.OK {
+		return
+	}
+	a, _ := g.AnswersOf(given)
+	route, _ := g.RouteOf(seed, a)
+	Lay(route, board)
+	var l []api.Expr
+	for _, cell := range scene.Cells {
+		answer := api.Expr{Kind: api.XAnswer, Name: cell.Name}
+		asked := api.Expr{Kind: api.XOp, Op: api.OpAsked, Args: []api.Expr{answer}}
+		if len(cell.Loops) == 0 {
+			l = append(l, answer, asked)
+		} else {
+			l = append(l, api.Expr{Kind: api.XOver, Op: api.OverCount, Name: cell.Loops[0], Args: []api.Expr{asked}})
+		}
+	}
+	for _, e := range l {
+		want, fault := value.Eval(e, scene, nil, nil)
+		tell, other := board.Meaning(e, nil)
+		if fault != other {
+			t.Error("Meaning", fault, other)
+		}
+		if fault != api.OK {
+			continue
+		}
+		if v, _ := tell(nil); !sameValue(v, want) {
+			t.Error("a value on the board is", v, "not", want)
+		}
+	}
+	if _, fault := board.Meaning(api.Expr{Kind: api.XAnswer, Name: quest.OptionName}, nil); fault != api.ErrName {
+		t.Error("the board has a cell for options", fault)
 	}
 }
 

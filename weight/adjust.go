@@ -39,7 +39,7 @@ func quotients(l, divisors []whole.Fraction) ([]whole.Fraction, api.Fault) {
 func multiplied(weights []whole.Fraction, factorOf func(i int) whole.Fraction) ([]api.Ratio, api.Fault) {
 	out := make([]api.Ratio, len(weights))
 	for i, weight := range weights {
-		r, fault := ratioOf(weight.Times(factorOf(i)))
+		r, fault := RatioOf(weight.Times(factorOf(i)))
 		if fault != api.OK {
 			return nil, fault
 		}
@@ -50,12 +50,12 @@ func multiplied(weights []whole.Fraction, factorOf func(i int) whole.Fraction) (
 
 // spreadOf describes at least one weight (W7).
 func spreadOf(weights []whole.Fraction) (api.Spread, api.Fault) {
-	sum, people := total(weights), fraction(len(weights))
+	sum, people := whole.Total(weights), fraction(len(weights))
 	squares := make([]whole.Fraction, len(weights))
 	for i, weight := range weights {
 		squares[i] = weight.Times(weight)
 	}
-	effective := sum.Times(sum).Times(total(squares).Inverse())
+	effective := sum.Times(sum).Times(whole.Total(squares).Inverse())
 	l, fault := ratiosOf([]whole.Fraction{
 		sum, slices.MinFunc(weights, whole.Fraction.Compare), slices.MaxFunc(weights, whole.Fraction.Compare),
 		sum.Times(people.Inverse()), effective, people.Times(effective.Inverse()),

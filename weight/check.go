@@ -8,8 +8,8 @@ import (
 	"canvass/whole"
 )
 
-// shortOf returns the number that a short ratio writes, or the errors of a short ratio.
-func shortOf(r api.Ratio) (whole.Fraction, api.Fault) {
+// ShortOf returns the number that a short ratio writes, or the errors of a short ratio.
+func ShortOf(r api.Ratio) (whole.Fraction, api.Fault) {
 	if fault := value.CheckRatio(r); fault != api.OK {
 		return whole.Fraction{}, fault
 	}
@@ -43,7 +43,7 @@ func totalsOf(m []api.Margin) ([][]whole.Fraction, api.Fault) {
 		out[i] = totals
 	}
 	for _, totals := range out {
-		if total(totals).Compare(total(out[0])) != 0 {
+		if whole.Total(totals).Compare(whole.Total(out[0])) != 0 {
 			return nil, api.ErrConflict
 		}
 	}
@@ -60,7 +60,7 @@ func cellsOf(totals []api.Ratio) ([]whole.Fraction, api.Fault) {
 	}
 	out := make([]whole.Fraction, len(totals))
 	for i, r := range totals {
-		f, fault := shortOf(r)
+		f, fault := ShortOf(r)
 		if fault != api.OK {
 			return nil, fault
 		}
@@ -117,7 +117,7 @@ func weightsBy(l []api.Person, check func(cells []int) api.Fault) ([]whole.Fract
 	}
 	out := make([]whole.Fraction, len(l))
 	for i, p := range l {
-		weight, fault := shortOf(p.Weight)
+		weight, fault := ShortOf(p.Weight)
 		if fault != api.OK {
 			return nil, fault
 		}

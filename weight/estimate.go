@@ -119,5 +119,5 @@ func (s shares) meanVariance() (api.Ratio, api.Fault) {
 		difference := whole.Over(r.values, r.weights).Plus(mean.Minus())
 		squares[i] = difference.Times(difference).Times(whole.Over(whole.Of(r.parts-1), whole.Of(r.parts)))
 	}
-	return ratioOf(total(squares))
+	return RatioOf(whole.Total(squares))
 }

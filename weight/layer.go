@@ -72,7 +72,7 @@ func replicatesOf(l []api.Person, weights []whole.Fraction, layer []part) ([]api
 	more := whole.Over(whole.Of(len(layer)), whole.Of(len(layer)-1))
 	for _, p := range layer {
 		for _, i := range p.people {
-			r, fault := ratioOf(weights[i].Times(more))
+			r, fault := RatioOf(weights[i].Times(more))
 			if fault != api.OK {
 				return nil, fault
 			}

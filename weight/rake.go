@@ -19,7 +19,7 @@ func rakingOf(r api.Raking) (whole.Fraction, api.Fault) {
 	if r.Places < 0 || r.Places > api.MaxPlaces || r.Rounds < 0 || r.Rounds > api.MaxRounds {
 		return whole.Fraction{}, api.ErrRange
 	}
-	distance, fault := shortOf(r.Distance)
+	distance, fault := ShortOf(r.Distance)
 	if fault != api.OK {
 		return whole.Fraction{}, fault
 	}

@@ -7,8 +7,8 @@ import (
 	"canvass/whole"
 )
 
-// ratioOf writes a number as a ratio, if it is within MaxDigits.
-func ratioOf(f whole.Fraction) (api.Ratio, api.Fault) {
+// RatioOf writes a number as a ratio, if it is within MaxDigits.
+func RatioOf(f whole.Fraction) (api.Ratio, api.Fault) {
 	if isLong(f.Num) || isLong(f.Den) {
 		return api.Ratio{}, api.ErrLarge
 	}
@@ -26,7 +26,7 @@ func isLong(n whole.Int) bool { return n.Bits() > api.MaxDigits*10/3 }
 func ratiosOf(l []whole.Fraction) ([]api.Ratio, api.Fault) {
 	out := make([]api.Ratio, len(l))
 	for i, f := range l {
-		r, fault := ratioOf(f)
+		r, fault := RatioOf(f)
 		if fault != api.OK {
 			return nil, fault
 		}
@@ -38,18 +38,6 @@ func ratiosOf(l []whole.Fraction) ([]api.Ratio, api.Fault) {
 // fraction returns a whole number as a fraction.
 func fraction(n int) whole.Fraction { return whole.Fraction{Num: whole.Of(n), Den: whole.Of(1)} }
 
-// total returns the sum of numbers. It is made by halves, so that few sums are as long as the last one.
-func total(l []whole.Fraction) whole.Fraction {
-	switch len(l) {
-	case 0:
-		return fraction(0)
-	case 1:
-		return l[0]
-	}
-	half := len(l) / 2
-	return total(l[:half]).Plus(total(l[half:]))
-}
-
 // totalsBy returns the sums of numbers by the group in which each one is, of so many groups; below 0 a number is in none.
 func totalsBy(l []whole.Fraction, groups int, groupOf func(i int) int) []whole.Fraction {
 	lists := make([][]whole.Fraction, groups)
@@ -60,7 +48,7 @@ func totalsBy(l []whole.Fraction, groups int, groupOf func(i int) int) []whole.F
 	}
 	out := make([]whole.Fraction, groups)
 	for group, list := range lists {
-		out[group] = total(list)
+		out[group] = whole.Total(list)
 	}
 	return out
 }

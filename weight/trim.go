@@ -21,7 +21,7 @@ func trimOf(weights []whole.Fraction, most whole.Fraction) trim {
 		order[i] = i
 	}
 	slices.SortFunc(order, func(a, b int) int { return weights[b].Compare(weights[a]) })
-	return trim{weights, order, most, total(weights)}
+	return trim{weights, order, most, whole.Total(weights)}
 }
 
 // held returns how many people have the bound, which are the first ones of the order, and the sum of the Weights of the others.
@@ -58,7 +58,7 @@ func (t trim) run() ([]api.Ratio, int, api.Fault) {
 		return out, 0, fault
 	}
 	mean := t.sum.Times(fraction(len(t.weights)).Inverse())
-	bound, fault := ratioOf(t.most.Times(mean))
+	bound, fault := RatioOf(t.most.Times(mean))
 	if fault != api.OK {
 		return nil, 0, fault
 	}
@@ -68,7 +68,7 @@ func (t trim) run() ([]api.Ratio, int, api.Fault) {
 		out[i] = bound
 	}
 	for _, i := range t.order[count:] {
-		if out[i], fault = ratioOf(t.weights[i].Times(factor)); fault != api.OK {
+		if out[i], fault = RatioOf(t.weights[i].Times(factor)); fault != api.OK {
 			return nil, 0, fault
 		}
 	}

@@ -43,6 +43,18 @@ func (f Fraction) Compare(g Fraction) int {
 	return f.Num.Times(g.Den).Compare(g.Num.Times(f.Den))
 }
 
+// Total returns the sum of numbers. It is made by halves, so that few sums are as long as the last one.
+func Total(l []Fraction) Fraction {
+	switch len(l) {
+	case 0:
+		return Fraction{Of(0), Of(1)}
+	case 1:
+		return l[0]
+	}
+	half := len(l) / 2
+	return Total(l[:half]).Plus(Total(l[half:]))
+}
+
 // Nearest returns the whole number nearest to f, of two equally near ones the one further from 0.
 func (f Fraction) Nearest() Int { return Nearest(f.Num, f.Den) }
 

@@ -187,6 +187,17 @@ func TestFractionsByBig(t *testing.T) {
 	}
 }
 
+func TestTotals(t *testing.T) {
+	r := rand.New(rand.NewSource(6))
+	sum, list := new(big.Rat), []Fraction{}
+	for range 40 {
+		sameFraction(t, "Total", Total(list), sum)
+		x := big.NewRat(r.Int63()-r.Int63(), 1+r.Int63n(1000000))
+		sum.Add(sum, x)
+		list = append(list, Over(ofBig(t, x.Num()), ofBig(t, x.Denom())))
+	}
+}
+
 // nearest returns the whole number nearest to num / den by math/big, of two the one further from 0.
 func nearest(num, den *big.Int) *big.Int {
 	size := new(big.Int).Abs(num)
